@@ -17,9 +17,10 @@ import (
 
 const module = "belfry/"
 
-// layers are the given packages, the lowest first, each with the layers that it may call beside api.
+// layers are the given packages, the lowest first, each with those that it may call beside api. Package names, which is not given, stands below them.
 var layers = []struct{ name, calls string }{
 	{"api", ""},
+	{"names", ""},
 	{"fixed", ""},
 	{"wire", ""},
 	{"sha", ""},
@@ -28,8 +29,8 @@ var layers = []struct{ name, calls string }{
 	{"disk", ""},
 	{"wal", "wire disk"},
 	{"store", "attr"},
-	{"audit", "wire sha"},
-	{"ident", ""},
+	{"audit", "names wire sha"},
+	{"ident", "names"},
 	{"policy", "attr"},
 	{"grant", "attr"},
 	{"metricq", "fixed attr"},
