@@ -17,7 +17,7 @@ import (
 
 const module = "belfry/"
 
-// layers are the given packages, the lowest first, each with those that it may call beside api. Package names, which is not given, stands below them.
+// layers are the given packages, the lowest first, each with those that it may call beside api. Packages names and words, which are not given, stand below those that call them.
 var layers = []struct{ name, calls string }{
 	{"api", ""},
 	{"names", ""},
@@ -25,14 +25,15 @@ var layers = []struct{ name, calls string }{
 	{"wire", ""},
 	{"sha", ""},
 	{"attr", "wire"},
+	{"words", "attr"},
 	{"otlp", "fixed wire attr"},
 	{"disk", ""},
 	{"wal", "wire disk"},
 	{"store", "attr"},
 	{"audit", "names wire sha"},
 	{"ident", "names"},
-	{"policy", "attr"},
-	{"grant", "attr"},
+	{"policy", "names attr words"},
+	{"grant", "names attr words"},
 	{"metricq", "fixed attr"},
 	{"logq", "attr"},
 	{"traceq", "attr metricq"},
