@@ -17,15 +17,16 @@ import (
 
 const module = "belfry/"
 
-// layers are the given packages, the lowest first, each with those that it may call beside api. Packages names and words, which are not given, stand below those that call them.
+// layers are the given packages, the lowest first, each with those that it may call beside api. Packages names, scan and words, which are not given, stand below those that call them.
 var layers = []struct{ name, calls string }{
 	{"api", ""},
 	{"names", ""},
+	{"scan", ""},
 	{"fixed", ""},
 	{"wire", ""},
 	{"sha", ""},
 	{"attr", "wire"},
-	{"words", "attr"},
+	{"words", "attr scan"},
 	{"otlp", "fixed wire attr"},
 	{"disk", ""},
 	{"wal", "wire disk"},
@@ -34,8 +35,8 @@ var layers = []struct{ name, calls string }{
 	{"ident", "names"},
 	{"policy", "names attr words"},
 	{"grant", "names attr words"},
-	{"metricq", "fixed attr"},
-	{"logq", "attr"},
+	{"metricq", "fixed attr scan"},
+	{"logq", "attr scan"},
 	{"traceq", "attr metricq"},
 	{"rewrite", "attr metricq logq traceq"},
 	{"meval", "fixed attr store metricq"},

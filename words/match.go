@@ -3,6 +3,7 @@ package words
 import (
 	"belfry/api"
 	"belfry/attr"
+	"belfry/scan"
 )
 
 // Matchers reads matchers, one at least, as attr.MatchText writes them. (attr.ParseMatch lets blanks stand about the signs, and tells nothing of matchers that can not be.)
@@ -24,46 +25,20 @@ func (l *Line) Matchers(to *[]api.Matcher) bool {
 
 // key reads the letters of a key, however many there are.
 func (l *Line) key(to *string) bool {
-	n := 0
-	for n < len(l.rest) && attr.Key("_"[:min(n, 1)]+l.rest[n:n+1]) {
-		n++
-	}
-	*to = l.cut(n)
-	return n > 0
+	*to = l.cut(scan.Word(l.rest))
+	return *to != ""
 }
 
 func (l *Line) operator(to *int) bool {
-	switch {
-	case l.Take("=~"):
-		*to = api.MHas
-	case l.Take("="):
-		*to = api.MEq
-	case l.Take("!="):
-		*to = api.MNe
-	case l.Take("!~"):
-		*to = api.MNot
-	default:
-		return false
-	}
-	return true
+	op, n, ok := scan.Operator(l.rest)
+	*to = op
+	l.cut(n)
+	return ok
 }
 
 // value reads a text in quotes.
 func (l *Line) value(to *string) bool {
-	s, e := attr.Unquote(l.cut(quoted(l.rest)))
-	*to = s
-	return e == api.OK
-}
-
-// quoted tells how many bytes, from the beginning of a text on, stand in quotes, with these; all, if they do not end.
-func quoted(s string) int {
-	for at := 1; at < len(s); at++ {
-		switch s[at] {
-		case '\\':
-			at++
-		case '"':
-			return at + 1
-		}
-	}
-	return len(s)
+	n, ok := scan.Quoted(l.rest)
+	*to, _ = attr.Unquote(l.cut(n))
+	return ok
 }
