@@ -17,7 +17,7 @@ import (
 
 const module = "belfry/"
 
-// layers are the given packages, the lowest first, each with those that it may call beside api. Packages names, scan and words, which are not given, stand below those that call them.
+// layers are the given packages, the lowest first, each with those that it may call beside api. Packages names, scan, cursor and words, which are not given, stand below those that call them.
 var layers = []struct{ name, calls string }{
 	{"api", ""},
 	{"names", ""},
@@ -27,6 +27,7 @@ var layers = []struct{ name, calls string }{
 	{"sha", ""},
 	{"attr", "wire"},
 	{"words", "attr scan"},
+	{"cursor", "attr scan"},
 	{"otlp", "fixed wire attr"},
 	{"disk", ""},
 	{"wal", "wire disk"},
@@ -36,8 +37,8 @@ var layers = []struct{ name, calls string }{
 	{"policy", "names attr words"},
 	{"grant", "names attr words"},
 	{"metricq", "fixed attr scan"},
-	{"logq", "attr scan"},
-	{"traceq", "attr metricq"},
+	{"logq", "attr scan cursor"},
+	{"traceq", "attr metricq scan cursor"},
 	{"rewrite", "attr metricq logq traceq"},
 	{"meval", "fixed attr store metricq"},
 	{"search", "attr store"},

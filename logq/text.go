@@ -6,6 +6,7 @@ import (
 
 	"belfry/api"
 	"belfry/attr"
+	"belfry/cursor"
 )
 
 // The words of steps that are no tests.
@@ -19,10 +20,10 @@ func Parse(s string) (q api.LogQuery, e api.Errno, at int) {
 	if len(s) > api.MaxLine {
 		return api.LogQuery{}, api.ErrSize, 0
 	}
-	r := reader{text: s}
+	r := reader{Cursor: cursor.Of(s)}
 	defer func() {
 		if recover() != nil {
-			q, e, at = api.LogQuery{}, api.ErrQuery, r.at
+			q, e, at = api.LogQuery{}, api.ErrQuery, r.At()
 		}
 	}()
 	r.read()

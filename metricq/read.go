@@ -197,8 +197,7 @@ func (r *reader) span() int64 {
 	if scan.Digits(s) == 0 {
 		r.stray()
 	}
-	digits := scan.Number(s)
-	size := digits + scan.Word(s[digits:])
+	size := scan.Run(s)
 	span, e := ParseSpan(s[:size])
 	if e != api.OK {
 		r.fail(api.ErrToken, token{at: r.at})

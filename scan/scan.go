@@ -44,6 +44,12 @@ scan:
 	return n
 }
 
+// Run tells how many bytes there are that may stand within a word, if the first is no point: a word, a number, or a number with letters behind it, as spans have them.
+func Run(s string) int {
+	n := Number(s)
+	return n + Word(s[n:])
+}
+
 // Operator tells a matcher's operator, and how many bytes it has. If there is none, it tells how many bytes may begin one: a ! that stands alone.
 func Operator(s string) (op, n int, ok bool) {
 	switch {

@@ -39,6 +39,23 @@ func TestWordBytes(t *testing.T) {
 	}
 }
 
+// Run: words, numbers, and numbers with letters behind them.
+func TestRun(t *testing.T) {
+	for s, want := range map[string]int{
+		"": 0, " a": 0, ".5": 0, "-5": 0, "é": 0, "{": 0, "\"x\"": 0, "a": 1, "spans named": 5, "a.9_Z{": 5, "_": 1, "5": 1, "5ms": 3, "5ms{": 3, "1.5.s": 5, "1.5.s é": 5, "10x9.y,": 6, "5m-s": 2, "5é": 1, "0_": 2,
+	} {
+		if n := Run(s); n != want {
+			t.Errorf("Run(%q) = %d, want %d", s, n, want)
+		}
+	}
+	for i := range 256 {
+		c := string([]byte{byte(i)})
+		if within := attr.Key("a" + c); (Run(c) == 1) != (within && c != ".") || (Run("5"+c) == 2) != within || (Run("a"+c) == 2) != within {
+			t.Errorf("the byte %q", c)
+		}
+	}
+}
+
 // Operators, and what may begin one.
 func TestOperator(t *testing.T) {
 	for _, c := range []struct {
