@@ -41,7 +41,7 @@ var layers = []struct{ name, calls string }{
 	{"traceq", "attr metricq scan cursor"},
 	{"rewrite", "attr metricq logq traceq"},
 	{"meval", "fixed attr store metricq"},
-	{"search", "attr store"},
+	{"search", "attr store logq traceq"},
 	{"quota", "fixed"},
 	{"fair", ""},
 	{"slots", "fair"},
