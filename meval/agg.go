@@ -16,10 +16,10 @@ func Agg(name string, by []string, l ...api.Point) ([]api.Point, api.Errno) {
 	}
 	keys := slices.Compact(slices.Sorted(slices.Values(by)))
 	rows := make([]api.Point, len(l))
-	for i, p := range l {
+	for i, p := range together(l) {
 		rows[i] = api.Point{Attrs: named(p.Attrs, keys), V: p.V}
 	}
-	// Stable: where a sum meets a bound it matters which number comes first.
+	// Stable: where a sum meets a bound it matters which number comes first, and within a group that is the order of the whole points.
 	slices.SortStableFunc(rows, func(a, b api.Point) int { return attr.Cmp(a.Attrs, b.Attrs) })
 	var out []api.Point
 	for len(rows) > 0 {

@@ -2,6 +2,7 @@ package meval
 
 import (
 	"math"
+	"math/big"
 	"math/rand"
 	"slices"
 	"strconv"
@@ -105,44 +106,75 @@ func TestAggNames(t *testing.T) {
 	}
 }
 
-// P17.2: sums go from the left and meet bounds; the least whole number is -Top.
-func TestAggEdges(t *testing.T) {
-	const top = fixed.Top
-	for _, c := range []struct {
-		name string
-		l    []int64
-		want int64
-	}{
-		{"sum", []int64{top, 5, -5}, top - 5}, {"sum", []int64{5, -5, top}, top}, {"sum", []int64{top, top, -top}, 0}, {"sum", []int64{-top, top, top}, top}, {"sum", []int64{math.MinInt64}, -top},
-		{"min", []int64{3, math.MinInt64, -top}, -top}, {"min", []int64{math.MinInt64}, -top}, {"max", []int64{math.MinInt64}, -top}, {"max", []int64{math.MinInt64, -top}, -top}, {"min", []int64{top, 7, 9}, 7}, {"max", []int64{-7, -9, -8}, -7}, {"max", []int64{1, top}, top},
-		{"avg", []int64{top, top}, top / 2}, {"avg", []int64{1, 2}, 1}, {"avg", []int64{-1, -2}, -1}, {"avg", []int64{math.MinInt64}, -top}, {"avg", []int64{5}, 5},
-		{"count", []int64{math.MinInt64, top, 0}, 3 * api.One},
-	} {
-		var l []api.Point
-		for i, v := range c.l {
-			l = append(l, api.Point{Attrs: []api.Attr{{Key: "k", Value: string(rune('z' - i))}}, V: v}) // not in order of attributes
+// handed tells a list's points in each order in which they can be handed in.
+func handed(l []api.Point) [][]api.Point {
+	if len(l) < 2 {
+		return [][]api.Point{l}
+	}
+	var out [][]api.Point
+	for i := range l {
+		for _, others := range handed(slices.Concat(l[:i], l[i+1:])) {
+			out = append(out, append([]api.Point{l[i]}, others...))
 		}
-		if got, e := Agg(c.name, nil, l...); e != api.OK || len(got) != 1 || got[0].V != c.want || len(got[0].Attrs) != 0 {
-			t.Errorf("%s(%v) = %v, %d, want %d", c.name, c.l, got, e, c.want)
+	}
+	return out
+}
+
+// sameHowever holds an aggregate by no keys to one number, in whatever order its points are handed in.
+func sameHowever(t *testing.T, name string, l []api.Point, want int64) {
+	t.Helper()
+	for _, l := range handed(l) {
+		if got, e := Agg(name, nil, l...); e != api.OK || len(got) != 1 || got[0].V != want || len(got[0].Attrs) != 0 {
+			t.Errorf("%s(%v) = %v, %d, want %d", name, l, got, e, want)
 		}
 	}
 }
 
-// P17.2: of many points, too, each group is summed in the order in which they were handed in.
+// P17.2: sums go through points in order of their attributes, and meet bounds; the least whole number is -Top.
+func TestAggEdges(t *testing.T) {
+	const top = fixed.Top
+	for _, c := range []struct {
+		name string
+		l    []int64 // in order of the points' attributes
+		want int64
+	}{
+		{"sum", []int64{top, 5, -5}, top - 5}, {"sum", []int64{5, -5, top}, top}, {"sum", []int64{-5, top, 5}, top}, {"sum", []int64{top, top, -top}, 0}, {"sum", []int64{-top, top, top}, top}, {"sum", []int64{-top, -top, top, 5}, 5}, {"sum", []int64{math.MinInt64}, -top},
+		{"min", []int64{3, math.MinInt64, -top}, -top}, {"min", []int64{math.MinInt64}, -top}, {"max", []int64{math.MinInt64}, -top}, {"max", []int64{math.MinInt64, -top}, -top}, {"min", []int64{top, 7, 9}, 7}, {"max", []int64{-7, -9, -8}, -7}, {"max", []int64{1, top}, top},
+		{"avg", []int64{top, 6, -6}, (top - 6) / 3}, {"avg", []int64{-6, 6, top}, top / 3}, {"avg", []int64{top, top}, top / 2}, {"avg", []int64{1, 2}, 1}, {"avg", []int64{-1, -2}, -1}, {"avg", []int64{math.MinInt64}, -top}, {"avg", []int64{5}, 5},
+		{"count", []int64{math.MinInt64, top, 0}, 3 * api.One},
+	} {
+		var l []api.Point
+		for i, v := range c.l {
+			l = append(l, api.Point{Attrs: []api.Attr{{Key: "k", Value: string(rune('a' + i))}}, V: v})
+		}
+		sameHowever(t, c.name, l, c.want)
+	}
+}
+
+// P17.2: of points with the same attributes it is the number that tells which comes first; one without attributes comes ahead of all others.
+func TestAggOrderOfNumbers(t *testing.T) {
+	const top = fixed.Top
+	sameHowever(t, "sum", []api.Point{{V: top}, {V: api.One}, {V: -api.One}}, top)
+	sameHowever(t, "avg", []api.Point{{V: top}, {V: api.One}, {V: -api.One}}, top/3)
+	sameHowever(t, "sum", []api.Point{{V: -top}, {V: api.One}, {V: -api.One}}, api.One-top)
+	sameHowever(t, "sum", points(t, `{a="1"}`, top, `{a="1"}`, 9, `{a="1"}`, -9), top)
+	sameHowever(t, "sum", points(t, `{a="1"}`, -9, `{}`, top, `{}`, 9), top-9)
+	sameHowever(t, "avg", points(t, `{a="1"}`, -9, `{}`, top, `{}`, 9), (top-9)/3)
+	sameHowever(t, "sum", points(t, `{a="2"}`, -9, `{a="1", b="1"}`, 9, `{a="1"}`, top), top-9)
+	sameHowever(t, "sum", points(t, `{a="1", b="2"}`, -9, `{b="1"}`, top, `{b="1"}`, 9), top)
+}
+
+// P17.2: of many points, too, each group is summed in order of the whole points: by all of their attributes, then by their numbers.
 func TestAggOrder(t *testing.T) {
 	r := rand.New(rand.NewSource(172))
-	apart := 0
+	moved := 0
 	for range 200 {
 		var l []api.Point
-		sums := make([]int64, 3)
-		plain := make([]int64, 3)
-		for range 100 {
-			key := r.Intn(3)
-			v := []int64{fixed.Top, -fixed.Top, fixed.Top / 2, -fixed.Top / 2, 1, -5}[r.Intn(6)]
-			sums[key] = fixed.Add(sums[key], v)
-			plain[key] += v
-			l = append(l, api.Point{Attrs: set(t, `{a="`+strconv.Itoa(key)+`"}`), V: v})
+		for range 60 {
+			attrs := `{a="` + strconv.Itoa(r.Intn(3)) + `", b="` + strconv.Itoa(r.Intn(4)) + `"}`
+			l = append(l, api.Point{Attrs: set(t, attrs), V: []int64{fixed.Top, -fixed.Top, fixed.Top / 2, -fixed.Top / 2, 1, -5}[r.Intn(6)]})
 		}
+		sums, came := groupSums(inOrder(l)), groupSums(l)
 		got, e := Agg("sum", []string{"a"}, l...)
 		if e != api.OK || len(got) != 3 {
 			t.Fatalf("Agg = %v, %d", got, e)
@@ -151,14 +183,39 @@ func TestAggOrder(t *testing.T) {
 			if p.V != sums[i] {
 				t.Fatalf("the sum of the group %d is %d, want %d", i, p.V, sums[i])
 			}
-			if sums[i] != plain[i] {
-				apart++
+			if sums[i] != came[i] {
+				moved++
 			}
 		}
 	}
-	if apart < 100 {
-		t.Errorf("%d sums met a bound: the test tells little", apart)
+	if moved < 100 {
+		t.Errorf("%d sums hang on the order: the test tells little", moved)
 	}
+}
+
+// groupSums sums points by the value of a, a digit, as they stand.
+func groupSums(l []api.Point) [3]int64 {
+	var out [3]int64
+	for _, p := range l {
+		i := p.Attrs[0].Value[0] - '0'
+		out[i] = fixed.Add(out[i], p.V)
+	}
+	return out
+}
+
+// inOrder tells points in order, each put ahead of the first one that it does not follow.
+func inOrder(l []api.Point) []api.Point {
+	var out []api.Point
+	for _, p := range l {
+		at := slices.IndexFunc(out, func(o api.Point) bool {
+			return cmpDots(dot{p.Attrs, big.NewInt(p.V)}, dot{o.Attrs, big.NewInt(o.V)}) < 0
+		})
+		if at < 0 {
+			at = len(out)
+		}
+		out = slices.Insert(out, at, p)
+	}
+	return out
 }
 
 // P17.2, P1: attributes that are no sets, keys that can not be.
