@@ -17,10 +17,11 @@ import (
 
 const module = "belfry/"
 
-// layers are the given packages, the lowest first, each with those that it may call beside api. Packages names, scan, cursor and words, which are not given, stand below those that call them.
+// layers are the given packages, the lowest first, each with those that it may call beside api. Packages names, tenants, scan, cursor and words, which are not given, stand below those that call them.
 var layers = []struct{ name, calls string }{
 	{"api", ""},
 	{"names", ""},
+	{"tenants", ""},
 	{"scan", ""},
 	{"fixed", ""},
 	{"wire", ""},
@@ -42,8 +43,8 @@ var layers = []struct{ name, calls string }{
 	{"rewrite", "attr metricq logq traceq"},
 	{"meval", "fixed attr store metricq"},
 	{"search", "attr store logq traceq"},
-	{"quota", "fixed"},
-	{"fair", ""},
+	{"quota", "tenants fixed"},
+	{"fair", "tenants"},
 	{"slots", "fair"},
 	{"cache", ""},
 	{"frame", "wire"},
